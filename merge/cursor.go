@@ -64,7 +64,7 @@ func from[T any](c Cursor[T]) made[T] {
 
 // Next is the next element, and whether there is one.
 func (m *made[T]) Next() (T, bool) {
-	if m.tell != nil {
+	if m != nil && m.tell != nil { // no function makes a nil one, but a caller may hold one
 		if x, ok := told(m.tell); ok {
 			return x, true
 		}

@@ -324,6 +324,18 @@ func TestOnceHoldsAgainstTheOneReturned(t *testing.T) { // P9.2
 	tells(t, "not alike themselves", merge.Once(never, merge.Of(1, 1, 1)), 1, 1, 1)
 }
 
+// TestOnceAsks whether the later one is alike to the one that was returned: a comparison that looks at one side alone tells it from the other way round.
+func TestOnceAsks(t *testing.T) { // P9.2
+	small := func(a, b int) int { // a small one is alike to whatever it is held against
+		if a < 10 {
+			return 0
+		}
+		return 1
+	}
+	tells(t, "the small one behind", merge.Once(small, merge.Of(10, 1, 2, 30)), 10, 30)
+	tells(t, "the small one ahead", merge.Once(small, merge.Of(1, 10, 30, 2)), 1, 10, 30)
+}
+
 func TestBothAndLess(t *testing.T) { // P9.3
 	cases := []struct {
 		what       string
@@ -375,6 +387,14 @@ func TestBothAndLessAsk(t *testing.T) { // P9.3
 	}
 	tells(t, "Both", merge.Both(small, merge.Of(3, 20, 30), merge.Of(4, 5, 20)), 20)
 	tells(t, "Less", merge.Less(small, merge.Of(3, 20, 30), merge.Of(4, 5, 20)), 3, 30)
+	evens := func(y, x int) int { // an even one precedes whatever it is held against
+		if even(y) {
+			return -1
+		}
+		return y - x
+	}
+	tells(t, "Both: skipped is what precedes", merge.Both(evens, merge.Of(1, 3, 5), merge.Of(2, 1, 4, 3, 7)), 1, 3)
+	tells(t, "Less: skipped is what precedes", merge.Less(evens, merge.Of(1, 3, 5), merge.Of(2, 1, 4, 3, 7)), 5)
 	before := func(a, b int) int { return -1 }
 	tells(t, "Both: each precedes each", merge.Both(before, merge.Of(1, 2), merge.Of(1, 2)))
 	tells(t, "Less: each precedes each", merge.Less(before, merge.Of(1, 2), merge.Of(1, 2)), 1, 2)

@@ -1,6 +1,7 @@
 package merge_test
 
 import (
+	"reflect"
 	"slices"
 	"testing"
 
@@ -318,6 +319,56 @@ func TestYieldMayPanic(t *testing.T) { // P9.1
 		}
 	}()
 	tells(t, "behind it", c, 2, 3)
+}
+
+func TestRowOfCursorsIsNotKept(t *testing.T) { // P9.2, P9.5
+	l := []merge.Cursor[int]{merge.Of(1, 4), merge.Of(2, 4), nil}
+	c := merge.Merge(rising, l...)
+	l[0], l[2] = nil, merge.Of(0)
+	if x, ok := c.Next(); x != 1 || !ok {
+		t.Errorf("the first one: %d, %t", x, ok)
+	}
+	l[1] = merge.Of(9)
+	tells(t, "Merge", c, 2, 4, 4)
+	if l[0] != nil {
+		t.Error("the row that was handed in was changed")
+	}
+	k := []merge.Cursor[api.Counted]{merge.Of(counted(1, 1)), merge.Of(counted(1, 1))}
+	s := merge.Sum(k...)
+	k[0], k[1] = nil, nil
+	sums(t, "Sum", s, counted(1, 2))
+}
+
+// TestNoFunctionMade has cursors of the type that the functions make: those that none of them made, and nil ones.
+func TestNoFunctionMade(t *testing.T) { // P9.1 to P9.5
+	of := reflect.TypeOf(merge.Of(1))
+	tells(t, "none made it", reflect.New(of.Elem()).Interface().(merge.Cursor[int]))
+	c := reflect.Zero(of).Interface().(merge.Cursor[int])
+	tells(t, "a nil one", c)
+	if l := merge.Rest(c); len(l) != 0 {
+		t.Errorf("Rest of a nil one: %v", l)
+	}
+	for _, m := range makers {
+		tells(t, m.what, m.of(c, c))
+		typ := reflect.TypeOf(m.of(nil, nil))
+		tells(t, m.what+", nil", reflect.Zero(typ).Interface().(merge.Cursor[int]))
+	}
+}
+
+func TestManyNested(t *testing.T) { // P9.2 to P9.5
+	want := map[string][]int{"Merge": {2, 2, 4, 6}, "Once": {2, 4, 6}, "Less": {2, 2, 4, 6}, "Only": {2, 2, 4, 6}, "First": {2, 2}, "Turn": {2, 2, 4, 6}}
+	for _, m := range makers {
+		c := merge.Of(2, 2, 4, 6)
+		for range 1 << 16 {
+			c = m.of(c, nil)
+		}
+		tells(t, m.what, c, want[m.what]...)
+	}
+	s := merge.Of(counted(1, 1), counted(1, 2), counted(2, 1))
+	for range 1 << 16 {
+		s = merge.Sum(s)
+	}
+	sums(t, "Sum", s, counted(1, 3), counted(2, 1))
 }
 
 func TestOneOverTheOther(t *testing.T) { // P9.2, P9.4
