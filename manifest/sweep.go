@@ -23,20 +23,19 @@ func Orphans(m api.Manifest, names ...string) []string {
 	return slices.DeleteFunc(slices.Clone(names), counts)
 }
 
-// Sweep deletes them.
+// Sweep deletes them. Beside an error it tells no number, though some may be gone.
 func Sweep(d *disk.Disk, m api.Manifest) (int, api.Errno) {
 	if _, e := d.Size(sideName); e == api.ErrNil { // without a disk there are no names to ask for, and no error
 		return 0, e
 	}
-	deleted := 0
-	e := tried(func() {
-		for _, name := range Orphans(m, d.Names()...) {
+	return answered(func() int {
+		names := Orphans(m, d.Names()...)
+		for _, name := range names {
 			need(d.Delete(name))
-			deleted++
 		}
-		if deleted > 0 {
+		if len(names) > 0 {
 			need(d.SyncDir())
 		}
+		return len(names)
 	})
-	return deleted, e
 }

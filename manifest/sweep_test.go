@@ -137,16 +137,16 @@ func TestSweepNothing(t *testing.T) { // P11.4
 	}
 }
 
-// TestSweepSteps: a fuse ends Sweep at each of its modifying calls: it tells how many were deleted, and goes on when it is called again.
+// TestSweepSteps: a fuse ends Sweep at each of its modifying calls: no number stands beside the error, what was deleted stays so, and it goes on when it is called again.
 func TestSweepSteps(t *testing.T) { // P11.4, P11.6
 	for n := range len(swept) + 3 {
 		d, by := strewn(t), strewn(t)
-		want := api.ErrDown
+		went, want := 0, api.ErrDown
 		if n > len(swept) {
-			want = api.OK
+			went, want = len(swept), api.OK
 		}
 		ok(t, d.Fuse(n))
-		sweeps(t, "fuse "+strconv.Itoa(n), d, small(), min(n, len(swept)), want)
+		sweeps(t, "fuse "+strconv.Itoa(n), d, small(), went, want)
 		if d.Down() != (n <= len(swept)+1) {
 			t.Errorf("fuse %d: down %t", n, d.Down())
 		}
@@ -169,6 +169,22 @@ func TestSweepSteps(t *testing.T) { // P11.4, P11.6
 			sweeps(t, "behind a loss", x, small(), len(manifest.Orphans(small(), x.Names()...)), api.OK)
 			orphans(t, "behind a loss", small(), x.Names())
 		}
+	}
+}
+
+// TestSweepFull: the side file of a Save that found no room is deleted; that it is told hangs on SyncDir.
+func TestSweepFull(t *testing.T) { // P11.4, P11.6
+	for n, want := range []api.Errno{api.ErrDown, api.OK} {
+		d := newDisk(t, 1)
+		put(t, d, "1", []byte("1"))
+		ok(t, d.Fuse(2+n))
+		saves(t, "full", d, api.Manifest{}, api.ErrFull)
+		sweeps(t, "full", d, api.Manifest{}, n, want)
+		if l := d.Names(); !slices.Equal(l, []string{"1"}) {
+			t.Errorf("fuse %d: files %q", 2+n, l)
+		}
+		ok(t, d.Fuse(0))
+		sweeps(t, "again", d, api.Manifest{}, 0, api.OK)
 	}
 }
 
